@@ -1,6 +1,7 @@
 package ptype_test
 
 import (
+	"regexp"
 	"slices"
 	"strconv"
 	"strings"
@@ -45,11 +46,27 @@ func behind(rules map[string][]string, symbols string, t api.Token) []string {
 func bears(t api.Token, symbol string) bool {
 	switch symbol {
 	case "NAME":
-		return t.Kind == 1 && strings.Count(t.Text, ".") == 0
+		return t.Kind == 1 && namesIn(t.Text) == 1
 	case "LONG":
-		return t.Kind == 1
+		return t.Kind == 1 && namesIn(t.Text) > 0
 	}
 	return t.Kind == 3 && t.Text == symbol
+}
+
+var (
+	words     = strings.Fields(keys)[17:]
+	nameSigns = regexp.MustCompile(`^[A-Za-z_\x{80}-\x{FFFC}\x{FFFE}-\x{10FFFF}][A-Za-z_\x{80}-\x{FFFC}\x{FFFE}-\x{10FFFF}0-9']*$`)
+)
+
+// namesIn tells how many names a TkName of that text has; none, if no TkName has it.
+func namesIn(s string) int {
+	l := strings.Split(s, ".")
+	for _, x := range l {
+		if len(s) > 128 || len(x) > 32 || !nameSigns.MatchString(x) || slices.Contains(words, x) {
+			return 0
+		}
+	}
+	return len(l)
 }
 
 // mayEnd tells whether nothing has to come any more.

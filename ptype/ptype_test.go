@@ -11,6 +11,7 @@ import (
 	"marquetry/api"
 	"marquetry/lexer"
 	"marquetry/ptype"
+	"marquetry/shape"
 )
 
 // rules are the calls that parse, by the oracle's names.
@@ -310,27 +311,145 @@ func TestTokensOfOtherKinds(t *testing.T) {
 	}
 }
 
-// Any TkName is a name, whatever its text is, so that what a word of the language would end goes on.
-func TestNamesWhoseTextsAreNone(t *testing.T) {
-	for _, s := range []string{"int", "mu", "(", "->", "val", "", "7", "a b", "\xff", strings.Repeat("a", 1<<16)} {
-		token := api.Token{Kind: api.TkName, Text: s}
-		if n, next, e := ptype.Type([]api.Token{token, token}, 0); text(n) != text(name(s)) || next != 1 || e != api.OK {
-			t.Errorf("%.20q: %d, %d", s, next, int(e))
+// P6.1: tokens of a name's kind whose texts are none.
+
+// textsOfNoName tells texts that no TkName has: words and signs, dots with nothing at a side, what is too long, bytes that no name has.
+func textsOfNoName() []string {
+	long := strings.Repeat("abcdefg.", 16) // 128 bytes, the last one a dot
+	return append(strings.Fields(keys),
+		"", ".", "..", "a.", ".a", "a..b", "a.b.", ".a.b", "a.b..c", "int.int", "a.val", "val.a", "b.int.c", "a.b.mu",
+		"7", "~7", "7a", "'", "'a", "a.7", "a.'b", "a.~7", "a-b", "a;", "a,b", "->>", "mu t", "a b", " a", "a ", "a\t", "a\n", "a. b", "a .b", "(**)", "a(**)",
+		strings.Repeat("a", 33), "a."+strings.Repeat("a", 33), strings.Repeat("a", 33)+".a", strings.Repeat("\u00e9", 16)+"a", strings.Repeat("a", 128), strings.Repeat("a", 1<<16), long, long+"h", strings.Repeat("a.", 64)+"a", strings.Repeat("a.", 1<<15)+"a",
+		"\xff", "a\xff", "\xffa", "a.\xff", "\xc3", "a\xc3", "\xed\xa0\x80", "\xf4\x90\x80\x80", "\ufffd", "a\ufffd", "a.b\ufffd", "\x00", "a\x00", "a\x7f", "a.\x7f",
+	)
+}
+
+// textsOfNames tells texts of one name, textsOfSeveral of names with dots.
+func textsOfNames() []string {
+	return []string{"a", "Z", "_", "t'", "a''1", "a0", "_9'", "int'", "mu1", "Int", "vals", "\u00e9", "\u0080", "\ufffc", "\ufffe", "\U0010ffff", "x\u00e9\U00010000'", strings.Repeat("a", 32), strings.Repeat("\u00e9", 16), "a" + strings.Repeat("'", 31)}
+}
+
+func textsOfSeveral() []string {
+	return []string{"a.b", "a.a", "a.b.c", "_._'", "int'.vals", "\u00e9.\u0080.x1", strings.Repeat("a", 32) + ".b", "b." + strings.Repeat("a", 32), strings.Repeat("abcdefg.", 15) + "abcdefgh", strings.Repeat("a.", 63) + "aa", strings.Repeat(strings.Repeat("a", 31)+".", 3) + strings.Repeat("b", 32), strings.Repeat("\u00e9.", 42) + "ab"}
+}
+
+// placesOfNames tells rows by the rule that they go by, with a sign ? at a place where the grammar asks for a name, be it long (LONG) or not (NAME).
+func placesOfNames() []struct{ rule, asked, row string } {
+	return []struct{ rule, asked, row string }{
+		{"TYPE", "LONG", "?"}, {"TYPE", "LONG", "? -> int"}, {"TYPE", "LONG", "? * int"}, {"TYPE", "LONG", "( ? )"}, {"TYPE", "LONG", "( ( ? ) ) -> u"},
+		{"TYPE", "LONG", "int -> ?"}, {"TYPE", "LONG", "int -> bool -> ?"}, {"TYPE", "LONG", "int * ?"}, {"TYPE", "LONG", "t.u * ? * bool -> int"}, {"TYPE", "LONG", "int * ( int -> ? )"},
+		{"TYPE", "NAME", "mu ? { A of int }"}, {"TYPE", "NAME", "int -> mu ? { A of t | B of t }"}, {"TYPE", "NAME", "mu t { A of mu ? { A of int } }"},
+		{"TYPE", "NAME", "mu t { ? of int }"}, {"TYPE", "NAME", "mu t { A of int | ? of int }"}, {"TYPE", "NAME", "mu t { A of int | ? of t | C of t }"}, {"TYPE", "NAME", "mu t { A of mu t { A of int | ? of int } | C of int }"},
+		{"TYPE", "LONG", "mu t { A of ? }"}, {"TYPE", "LONG", "mu t { A of int | B of t -> ? * t }"},
+		{"CONS", "NAME", "? of int"}, {"CONS", "NAME", "? of int | B of int"}, {"CONS", "NAME", "A of int | ? of int"}, {"CONS", "NAME", "A of int | B of int | ? of int | D of int"}, {"CONS", "NAME", "A of int | B of mu ? { A of int }"},
+		{"CONS", "LONG", "A of ?"}, {"CONS", "LONG", "A of ? | B of int"}, {"CONS", "LONG", "A of int | B of ( ? * t )"},
+	}
+}
+
+// placed tells a row's tokens, with a token of a name's kind and of a text at its place, and that place.
+func placed(row, text string) ([]api.Token, int) {
+	l := tokensOf(row)
+	i := slices.IndexFunc(l, func(t api.Token) bool { return t.Text == "?" })
+	l[i] = api.Token{Kind: api.TkName, Text: text}
+	return l, i
+}
+
+func TestNoNameWhereOneIsAsked(t *testing.T) {
+	for _, x := range placesOfNames() {
+		for _, s := range textsOfNoName() {
+			l, at := placed(x.row, s)
+			refuses(t, x.rule, l, 0, at, api.ErrParse)
+			refuses(t, x.rule, l[:at+1], 0, at, api.ErrParse)
+			refuses(t, x.rule, append(make([]api.Token, 3), l...), 3, at+3, api.ErrParse)
 		}
-		l := tokensOf("A of int | B of int")
-		l[0], l[4] = token, token
-		refuses(t, "CONS", l, 0, 4, api.ErrTwice)
-		agrees(t, l)
-		if n, next, e := ptype.Cons(l[:4], 0); n != nil || next != 4 || e != api.ErrParse {
-			t.Errorf("%.20q: %d, %d", s, next, int(e))
+		if x.asked == "NAME" {
+			for _, s := range textsOfSeveral() {
+				l, at := placed(x.row, s)
+				refuses(t, x.rule, l, 0, at, api.ErrParse)
+			}
 		}
 	}
-	for _, s := range []string{".", "a.", ".a", "a.b", "..", "int.int"} {
-		token := api.Token{Kind: api.TkName, Text: s}
-		if n, next, e := ptype.Type([]api.Token{token}, 0); text(n) != text(name(s)) || next != 1 || e != api.OK {
-			t.Errorf("%q: %d, %d", s, next, int(e))
+	refuses(t, "TYPE", []api.Token{{}, {}, {Kind: api.TkName}}, 2, 2, api.ErrParse)
+	refuses(t, "CONS", []api.Token{{}, {}, {Kind: api.TkName}}, 2, 2, api.ErrParse)
+}
+
+func TestNamesWhereTheyAreAsked(t *testing.T) {
+	for _, x := range placesOfNames() {
+		names := textsOfNames()
+		if x.asked == "LONG" {
+			names = append(names, textsOfSeveral()...)
 		}
-		refuses(t, "CONS", append([]api.Token{token}, tokensOf("of int")...), 0, 0, api.ErrParse)
+		plain, _ := placed(x.row, "anyone")
+		for _, s := range names {
+			l, _ := placed(x.row, s)
+			want := oracle(x.rule, plain, 0)
+			for i := range want.trees {
+				want.trees[i] = strings.ReplaceAll(want.trees[i], strconv.Quote("anyone"), strconv.Quote(s))
+			}
+			if got := rules()[x.rule](l, 0); !got.same(want) || got.next != len(l) || got.e != api.OK {
+				t.Errorf("%q, with %q: %s", x.row, s, got.shown())
+			}
+		}
+	}
+}
+
+// What is a type, or constructors, ends ahead of a token that is no name, as it does ahead of one that is.
+func TestNoNameBehindAWhole(t *testing.T) {
+	for _, s := range append(textsOfNoName(), "a", "a.b") {
+		token := api.Token{Kind: api.TkName, Text: s}
+		for _, row := range []string{"int", "t.u", "( int )", "int -> t", "mu t { A of int }"} {
+			l := append(tokensOf(row), token, token)
+			if n, next, e := ptype.Type(l, 0); text(n) != typeText(l[:len(l)-2]) || next != len(l)-2 || e != api.OK {
+				t.Errorf("%q, and %.40q: %s, %d, %d", row, s, text(n), next, int(e))
+			}
+		}
+		l := append(tokensOf("A of int | B of t"), token, token)
+		if cons, next, e := ptype.Cons(l, 0); len(cons) != 2 || next != 7 || e != api.OK {
+			t.Errorf("%.40q: %q, %d, %d", s, texts(cons), next, int(e))
+		}
+		for _, row := range []string{"( int", "mu t", "mu t { A", "mu t { A of int"} {
+			l := append(tokensOf(row), token)
+			refuses(t, "TYPE", l, 0, len(l)-1, api.ErrParse)
+		}
+	}
+}
+
+// A constructor's name that is none stands nowhere twice; behind it nothing is met any more.
+func TestNoNameTwice(t *testing.T) {
+	for _, s := range textsOfNoName() {
+		l := tokensOf("A of int | B of int | A of int")
+		l[4].Text = s
+		refuses(t, "CONS", l, 0, 4, api.ErrParse)
+		l[8].Text = s
+		refuses(t, "CONS", l, 0, 4, api.ErrParse)
+		l[0].Text = s
+		refuses(t, "CONS", l, 0, 0, api.ErrParse)
+		l[0].Text, l[4].Text, l[8].Text = "A", "A", s
+		refuses(t, "CONS", l, 0, 4, api.ErrTwice)
+		l[4].Text = "B"
+		refuses(t, "CONS", l, 0, 8, api.ErrParse)
+	}
+}
+
+// What is parsed of any tokens is a type by layer 5, and can be written.
+func TestWhatIsParsedIsAType(t *testing.T) {
+	tokens := tokensOf("int t t.u -> ( ) mu { } | of")
+	for _, s := range []string{"", "int", "a.", "7"} {
+		tokens = append(tokens, api.Token{Kind: api.TkName, Text: s})
+	}
+	parsed := 0
+	eachRow("TYPE", 7, tokens, func(row []api.Token) {
+		n, next, e := ptype.Type(row, 0)
+		if e != api.OK {
+			return
+		}
+		parsed++
+		if e := shape.Type(n); e != api.OK {
+			t.Fatalf("%q: %s, %d: %d", shown(row), text(n), next, int(e))
+		}
+	})
+	if parsed < 500 {
+		t.Error(parsed)
 	}
 }
 
@@ -355,7 +474,7 @@ func eachRow(rule string, most int, tokens []api.Token, f func(row []api.Token))
 
 func TestAllShortRows(t *testing.T) {
 	tokens := tokensOf("int t t.u -> * ( ) mu { } | of fn 7 unit")
-	tokens = append(tokens, api.Token{Kind: 9, Text: "int"}, api.Token{Kind: api.TkName, Text: "("}, api.Token{Kind: api.TkKey, Text: "t"})
+	tokens = append(tokens, api.Token{Kind: 9, Text: "int"}, api.Token{Kind: api.TkName, Text: "("}, api.Token{Kind: api.TkName}, api.Token{Kind: api.TkKey, Text: "t"})
 	eachRow("TYPE", 6, tokens, func(row []api.Token) { agreesAt(t, row, 0) })
 	eachRow("CONS", 6, tokens, func(row []api.Token) { agreesAt(t, row, 0) })
 	eachRow("CONS", 12, tokensOf("int A | of )"), func(row []api.Token) { agreesAt(t, row, 0) })
@@ -454,8 +573,8 @@ func TestKeyNameLong(t *testing.T) {
 						t.Errorf("Key(%d %q, %d, %q) = %t", kind, s, i, asked, is)
 					}
 				}
-				isText(t, ptype.Long, l, i, there && kind == api.TkName)
-				isText(t, ptype.Name, l, i, there && kind == api.TkName && !strings.Contains(s, "."))
+				isText(t, ptype.Long, l, i, there && kind == api.TkName && namesIn(s) > 0)
+				isText(t, ptype.Name, l, i, there && kind == api.TkName && namesIn(s) == 1)
 			}
 		}
 	}
@@ -467,6 +586,35 @@ func TestKeyNameLong(t *testing.T) {
 			isText(t, ptype.Name, l, i, false)
 			isText(t, ptype.Long, l, i, false)
 		}
+	}
+}
+
+func TestNamesAndTextsThatAreNone(t *testing.T) {
+	ask := func(s string, name, long bool) {
+		t.Helper()
+		for _, ahead := range []int{0, 2} {
+			l := slices.Repeat([]api.Token{{Kind: api.TkName, Text: s, At: 5}}, 2+ahead)
+			isText(t, ptype.Name, l, ahead, name)
+			isText(t, ptype.Long, l, ahead, long)
+		}
+	}
+	for _, s := range textsOfNoName() {
+		ask(s, false, false)
+	}
+	for _, s := range textsOfNames() {
+		ask(s, true, true)
+	}
+	for _, s := range textsOfSeveral() {
+		ask(s, false, true)
+	}
+}
+
+// Just what the lexer tells as one TkName is one, and its text is that one's.
+func TestTextsAreNamesAsTheyAreLexed(t *testing.T) {
+	for _, s := range slices.Concat(textsOfNoName(), textsOfNames(), textsOfSeveral()) {
+		lexed, _, _ := lexer.Lex(s)
+		is := len(lexed) == 1 && lexed[0].Kind == api.TkName && lexed[0].Text == s
+		isText(t, ptype.Long, []api.Token{{Kind: api.TkName, Text: s}}, 0, is)
 	}
 }
 
