@@ -22,7 +22,7 @@ func grammar() map[string][]string {
 		"SUM":      {"TERM SUMMED"},
 		"SUMMED":   {"", "+ TERM SUMMED", "- TERM SUMMED"},
 		"TERM":     {"APP TIMES"},
-		"TIMES":    {"", "* TERM"},
+		"TIMES":    {"", "* APP TIMES"},
 		"APP":      {"ATOM APPLIED"},
 		"APPLIED":  {"", "ATOM APPLIED"},
 		"ATOM":     {"NUMBER", "true", "false", "( CLOSED", "#1 ATOM", "#2 ATOM", "LONG"},
@@ -219,7 +219,7 @@ func operationText(l []api.Token) string {
 		return split(places[len(places)-1])
 	}
 	if places := outside(l, "*"); len(places) > 0 {
-		return split(places[0])
+		return split(places[len(places)-1])
 	}
 	last := 0
 	for i := 0; i < len(l); i = atomEnd(l, i) {

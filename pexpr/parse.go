@@ -79,14 +79,14 @@ func (r rules) comparison() *api.Node {
 	return left
 }
 
-func (r rules) sum() *api.Node {
-	return leftward(r.term, func() (int, bool) { return r.operator(asSum) })
-}
+func (r rules) sum() *api.Node { return r.leftward(r.term, asSum) }
 
-// leftward parses a row of what binds tighter, and joins the tree of those ahead with each part behind them.
-func leftward(tighter func() *api.Node, operator func() (int, bool)) *api.Node {
+func (r rules) term() *api.Node { return r.leftward(r.application, asTerm) }
+
+// leftward parses a row of what binds tighter, with a rule's signs between, and joins the tree of those ahead with each part behind them. It asks for no more memory of the stack, however long the row is.
+func (r rules) leftward(tighter func() *api.Node, rule int) *api.Node {
 	n := tighter()
-	for kind, is := operator(); is; kind, is = operator() {
+	for kind, is := r.operator(rule); is; kind, is = r.operator(rule) {
 		n = operation(kind, n, tighter())
 	}
 	return n
@@ -100,10 +100,6 @@ func (r rules) operator(rule int) (int, bool) {
 		}
 	}
 	return 0, false
-}
-
-func (r rules) term() *api.Node {
-	return r.Nested("*", r.application, func(left, right *api.Node) *api.Node { return operation(api.OpMul, left, right) })
 }
 
 func (r rules) application() *api.Node {

@@ -134,9 +134,9 @@ func chains() []sample {
 	return []sample{
 		{"a b", app(a, b)}, {"a b c d", app(app(app(a, b), c), d)}, {"a ( b c ) d", app(app(a, app(b, c)), d)}, {"( a b ) ( c d )", app(app(a, b), app(c, d))}, {"1 true ( ) false", app(app(app(num(1), &api.Node{Kind: api.EBool, N: 1}), tree(api.EUnit)), tree(api.EBool))},
 		{"#1 a b", app(fst(a), b)}, {"#1 ( a b )", fst(app(a, b))}, {"a #1 b", app(a, fst(b))}, {"a #1 #2 b c", app(app(a, fst(snd(b))), c)}, {"#2 #1 a #1 b", app(snd(fst(a)), fst(b))}, {"a ( b , c ) ~1", app(app(a, pair(b, c)), num(-1))},
-		{"a * b", mul(a, b)}, {"a * b * c * d", mul(a, mul(b, mul(c, d)))}, {"( a * b ) * c", mul(mul(a, b), c)}, {"a * ( b * c )", mul(a, mul(b, c))}, {"a * ( b * c ) * d", mul(a, mul(mul(b, c), d))}, {"a b * c d", mul(app(a, b), app(c, d))}, {"#1 a * #2 b", mul(fst(a), snd(b))},
+		{"a * b", mul(a, b)}, {"a * b * c", mul(mul(a, b), c)}, {"a * b * c * d", mul(mul(mul(a, b), c), d)}, {"( a * b ) * c", mul(mul(a, b), c)}, {"a * ( b * c )", mul(a, mul(b, c))}, {"a * ( b * c ) * d", mul(mul(a, mul(b, c)), d)}, {"a b * c d", mul(app(a, b), app(c, d))}, {"#1 a * #2 b", mul(fst(a), snd(b))},
 		{"a + b", add(a, b)}, {"a - b", sub(a, b)}, {"a + b + c + d", add(add(add(a, b), c), d)}, {"a - b - c - d", sub(sub(sub(a, b), c), d)}, {"a - b + c - d", sub(add(sub(a, b), c), d)}, {"a - ( b - c ) - d", sub(sub(a, sub(b, c)), d)}, {"a + ( b + c )", add(a, add(b, c))}, {"1 - ~1", sub(num(1), num(-1))},
-		{"a * b + c * d", add(mul(a, b), mul(c, d))}, {"a + b * c - d", sub(add(a, mul(b, c)), d)}, {"a + b * c * d", add(a, mul(b, mul(c, d)))}, {"( a + b ) * ( c - d )", mul(add(a, b), sub(c, d))}, {"a * ( b + c ) * d", mul(a, mul(add(b, c), d))}, {"a b - c", sub(app(a, b), c)}, {"a + b c", add(a, app(b, c))}, {"a ( b + c )", app(a, add(b, c))},
+		{"a * b + c * d", add(mul(a, b), mul(c, d))}, {"a + b * c - d", sub(add(a, mul(b, c)), d)}, {"a + b * c * d", add(a, mul(mul(b, c), d))}, {"( a + b ) * ( c - d )", mul(add(a, b), sub(c, d))}, {"a * ( b + c ) * d", mul(mul(a, add(b, c)), d)}, {"a b - c", sub(app(a, b), c)}, {"a + b c", add(a, app(b, c))}, {"a ( b + c )", app(a, add(b, c))},
 		{"a = b", eq(a, b)}, {"a < b", less(a, b)}, {"a + b = c - d", eq(add(a, b), sub(c, d))}, {"a * b < c d", less(mul(a, b), app(c, d))}, {"( a = b ) = c", eq(eq(a, b), c)}, {"a < ( b < c )", less(a, less(b, c))}, {"( a = b ) + ( c < d )", add(eq(a, b), less(c, d))}, {"a ( b = c )", app(a, eq(b, c))}, {"#1 a = #2 b", eq(fst(a), snd(b))},
 	}
 }
@@ -187,7 +187,7 @@ func TestAtomsWhereverAnExpressionMayStand(t *testing.T) {
 	for _, x := range inner {
 		for _, y := range []sample{
 			{"#1 ?", fst(x.want)}, {"#2 ?", snd(x.want)}, {"a ?", app(a, x.want)}, {"? a", app(x.want, a)}, {"? ?", app(x.want, x.want)}, {"a ? b", app(app(a, x.want), b)},
-			{"? * a", mul(x.want, a)}, {"a * ?", mul(a, x.want)}, {"a * ? * b", mul(a, mul(x.want, b))}, {"? + a", add(x.want, a)}, {"a + ?", add(a, x.want)}, {"? - a", sub(x.want, a)}, {"a - ? - b", sub(sub(a, x.want), b)}, {"? = a", eq(x.want, a)}, {"a = ?", eq(a, x.want)}, {"? < ?", less(x.want, x.want)},
+			{"? * a", mul(x.want, a)}, {"a * ?", mul(a, x.want)}, {"a * ? * b", mul(mul(a, x.want), b)}, {"? + a", add(x.want, a)}, {"a + ?", add(a, x.want)}, {"? - a", sub(x.want, a)}, {"a - ? - b", sub(sub(a, x.want), b)}, {"? = a", eq(x.want, a)}, {"a = ?", eq(a, x.want)}, {"? < ?", less(x.want, x.want)},
 			{"( ? )", x.want}, {"( ? , a )", pair(x.want, a)}, {"( a , ? )", pair(a, x.want)}, {"fn ( x : int ) => ?", lam("x", i, x.want)}, {"let x = ? in a end", let("x", x.want, a)}, {"let x = a in ? end", let("x", a, x.want)}, {"if ? then a else b", iff(x.want, a, b)}, {"if a then ? else b", iff(a, x.want, b)}, {"if a then b else ?", iff(a, b, x.want)},
 			{"case ? of A x => a end", tree(api.ECase, x.want, arm("A", "x", a))}, {"case a of A x => ? | B x => ? end", tree(api.ECase, a, arm("A", "x", x.want), arm("B", "x", x.want))}, {"fold ? to int of A x => a end", tree(api.EFold, x.want, i, arm("A", "x", a))}, {"fold a to int of A x => b | B x => ? end", tree(api.EFold, a, i, arm("A", "x", b), arm("B", "x", x.want))},
 		} {
@@ -611,8 +611,7 @@ func TestLongRows(t *testing.T) {
 	for _, x := range []struct {
 		part         string
 		kind, number int
-		leftward     bool
-	}{{"x", api.EApp, 0, true}, {"x +", api.EOp, 1, true}, {"x -", api.EOp, 2, true}, {"x *", api.EOp, 3, false}} {
+	}{{"x", api.EApp, 0}, {"x +", api.EOp, 1}, {"x -", api.EOp, 2}, {"x *", api.EOp, 3}} {
 		l := append(tokensOfMany(many, x.part), tokensOf("x ;")...)
 		n, next, e := pexpr.Expr(l, 0)
 		if e != api.OK || next != len(l)-1 {
@@ -622,14 +621,10 @@ func TestLongRows(t *testing.T) {
 			if n.Kind != x.kind || n.N != x.number || len(n.Kids) != 2 {
 				t.Fatal(x, n)
 			}
-			part, rest := n.Kids[1], n.Kids[0]
-			if !x.leftward {
-				part, rest = rest, part
+			if n.Kids[1].Name != "x" {
+				t.Fatal(x, n.Kids[1])
 			}
-			if part.Name != "x" {
-				t.Fatal(x, part)
-			}
-			n = rest
+			n = n.Kids[0]
 		}
 		if n.Kind != api.EVar {
 			t.Error(x, n)
@@ -713,7 +708,7 @@ func again(t *testing.T, n *api.Node, s string) {
 
 func TestWriteOfEachForm(t *testing.T) {
 	for _, x := range slices.Concat(chains(), loose()) {
-		if !slices.Contains([]string{"fn ( x : ( int ) ) => ( a )", "( a b ) ( c d )", "a * ( b * c )"}, x.s) { // those have signs that are not needed
+		if !slices.Contains([]string{"fn ( x : ( int ) ) => ( a )", "( a b ) ( c d )", "( a * b ) * c"}, x.s) { // those have signs that are not needed
 			writes(t, x.want, x.s)
 		}
 	}
@@ -745,7 +740,7 @@ func TestSignsAroundWhatBindsLooser(t *testing.T) {
 		{func(n *api.Node) *api.Node { return lam("x", tname("t"), n) }, "fn ( x : t ) => ?", 0}, {func(n *api.Node) *api.Node { return let("x", n, y) }, "let x = ? in y end", 0}, {func(n *api.Node) *api.Node { return let("x", y, n) }, "let x = y in ? end", 0}, {func(n *api.Node) *api.Node { return iff(n, x, y) }, "if ? then x else y", 0}, {func(n *api.Node) *api.Node { return iff(x, n, y) }, "if x then ? else y", 0}, {func(n *api.Node) *api.Node { return iff(x, y, n) }, "if x then y else ?", 0},
 		{func(n *api.Node) *api.Node { return tree(api.ECase, n, arm("A", "x", y)) }, "case ? of A x => y end", 0}, {func(n *api.Node) *api.Node { return tree(api.ECase, x, arm("A", "x", n), arm("B", "x", n)) }, "case x of A x => ? | B x => ? end", 0}, {func(n *api.Node) *api.Node { return tree(api.EFold, n, tname("t"), arm("A", "x", y)) }, "fold ? to t of A x => y end", 0}, {func(n *api.Node) *api.Node { return tree(api.EFold, x, tname("t"), arm("A", "x", n)) }, "fold x to t of A x => ? end", 0}, {func(n *api.Node) *api.Node { return pair(n, y) }, "( ? , y )", 0}, {func(n *api.Node) *api.Node { return pair(y, n) }, "( y , ? )", 0},
 		{func(n *api.Node) *api.Node { return eq(n, y) }, "? = y", 2}, {func(n *api.Node) *api.Node { return eq(y, n) }, "y = ?", 2}, {func(n *api.Node) *api.Node { return less(n, y) }, "? < y", 2}, {func(n *api.Node) *api.Node { return less(y, n) }, "y < ?", 2},
-		{func(n *api.Node) *api.Node { return add(n, y) }, "? + y", 2}, {func(n *api.Node) *api.Node { return add(y, n) }, "y + ?", 3}, {func(n *api.Node) *api.Node { return sub(n, y) }, "? - y", 2}, {func(n *api.Node) *api.Node { return sub(y, n) }, "y - ?", 3}, {func(n *api.Node) *api.Node { return mul(n, y) }, "? * y", 4}, {func(n *api.Node) *api.Node { return mul(y, n) }, "y * ?", 3},
+		{func(n *api.Node) *api.Node { return add(n, y) }, "? + y", 2}, {func(n *api.Node) *api.Node { return add(y, n) }, "y + ?", 3}, {func(n *api.Node) *api.Node { return sub(n, y) }, "? - y", 2}, {func(n *api.Node) *api.Node { return sub(y, n) }, "y - ?", 3}, {func(n *api.Node) *api.Node { return mul(n, y) }, "? * y", 3}, {func(n *api.Node) *api.Node { return mul(y, n) }, "y * ?", 4},
 		{func(n *api.Node) *api.Node { return app(n, y) }, "? y", 4}, {func(n *api.Node) *api.Node { return app(y, n) }, "y ?", 5}, {fst, "#1 ?", 5}, {snd, "#2 ?", 5},
 	}
 	for _, form := range forms {
@@ -877,7 +872,8 @@ func TestExpressionsAtTheLimits(t *testing.T) {
 			}
 		}
 	}
-	writes(t, chain(59, mul(v("x"), num(1)), 0, v("y")), strings.Repeat("( ", 58)+"y * 1"+strings.Repeat(" ) * 1", 58))
+	writes(t, chain(59, mul(v("x"), num(1)), 0, v("y")), "y"+strings.Repeat(" * 1", 59))
+	writes(t, chain(59, mul(num(1), v("x")), 1, v("y")), strings.Repeat("1 * ( ", 58)+"1 * y"+strings.Repeat(" )", 58))
 	writes(t, chain(59, sub(v("x"), num(1)), 0, v("y")), "y"+strings.Repeat(" - 1", 59))
 	for _, n := range []int{61, 62, 64, 127} {
 		for _, x := range deepExprs(n) {
